@@ -450,36 +450,83 @@ func TestP5_1TargetFaults(t *testing.T) {
 	}
 }
 
-func TestP5_1Arg(t *testing.T) {
-	refused := func(l []api.Token, at int) {
-		t.Helper()
-		want := api.Fault{Code: api.ErrArg}
-		if e, next, fault := Parse(l, at); !equal(e, api.Expr{}) || next != 0 || fault != want {
-			t.Errorf("Parse(%s, %d) = %v, %d, %v", brief(l), at, e, next, fault)
-		}
-		if e, next, fault := Target(l, at); !equal(e, api.Expr{}) || next != 0 || fault != want {
-			t.Errorf("Target(%s, %d) = %v, %d, %v", brief(l), at, e, next, fault)
-		}
-		if r, next, fault := Type(l, at); !equalTypes(r, api.TypeRef{}) || next != 0 || fault != want {
-			t.Errorf("Type(%s, %d) = %v, %d, %v", brief(l), at, r, next, fault)
-		}
+// wantRefused checks that no function takes tokens from the token at.
+func wantRefused(t *testing.T, l []api.Token, at int) {
+	t.Helper()
+	want := api.Fault{Code: api.ErrArg}
+	if e, next, fault := Parse(l, at); !equal(e, api.Expr{}) || next != 0 || fault != want {
+		t.Errorf("Parse(%s, %d) = %v, %d, %v", brief(l), at, e, next, fault)
 	}
+	if e, next, fault := Target(l, at); !equal(e, api.Expr{}) || next != 0 || fault != want {
+		t.Errorf("Target(%s, %d) = %v, %d, %v", brief(l), at, e, next, fault)
+	}
+	if r, next, fault := Type(l, at); !equalTypes(r, api.TypeRef{}) || next != 0 || fault != want {
+		t.Errorf("Type(%s, %d) = %v, %d, %v", brief(l), at, r, next, fault)
+	}
+}
+
+func TestP5_1Arg(t *testing.T) {
 	good := lex(t, "a ( 1 ) + b")
 	for _, at := range []int{-1, -2, math.MinInt, math.MaxInt, 1 << 32} {
-		refused(good, at)
-		refused(nil, at)
+		wantRefused(t, good, at)
+		wantRefused(t, nil, at)
 	}
-	refused(good, len(good)+1)
-	refused(nil, 1)
+	wantRefused(t, good, len(good)+1)
+	wantRefused(t, nil, 1)
 	for _, bad := range []api.Token{{}, {Op: 8}, {Op: -1, Text: "a"}, {Op: api.TokName}, token(api.TokName, "end"), token(api.TokName, "1"), token(api.TokName, strings.Repeat("a", 41)), token(api.TokName, "+"), token(api.TokWord, "a"), token(api.TokWord, "("), token(api.TokSign, "and"), token(api.TokSign, "!"), token(api.TokBit, "2"), token(api.TokBit, ""), token(api.TokVec, ""), token(api.TokVec, strings.Repeat("1", 65)), token(api.TokText, "\""), token(api.TokInt, "1"), {Op: api.TokInt, N: -1}, {Op: api.TokInt, N: math.MaxInt32 + 1}, {Op: api.TokName, Text: "a", N: 1}} {
 		for place := range len(good) + 1 {
 			l := slices.Insert(slices.Clone(good), place, bad)
 			for _, at := range []int{-1, 0, place, place + 1, len(l), len(l) + 1} {
-				refused(l, at)
+				wantRefused(t, l, at)
 			}
 		}
 	}
-	refused(slices.Repeat([]api.Token{good[0]}, api.MaxText+1), 0)
+}
+
+// There may be more tokens than a string has bytes: all of them have to be possible, and are read.
+func TestP5_1Many(t *testing.T) {
+	for _, n := range []int{api.MaxText - 1, api.MaxText, api.MaxText + 1, 2 * api.MaxText, 2*api.MaxText + 1, 70000} {
+		l := placed(slices.Repeat(lex(t, "a"), n))
+		for _, at := range []int{0, 1, api.MaxText / 2, n - 2, n - 1} {
+			agree(t, "Parse", Parse, expectedExpr, equal, l[at:])
+			agree(t, "Target", Target, expectedTarget, equal, l[at:])
+			agree(t, "Type", Type, expectedType, equalTypes, l[at:])
+			want := api.Expr{Op: api.EName, Name: "a", Line: l[at].Line, Col: l[at].Col}
+			if e, next, fault := Parse(l, at); !equal(e, want) || next != at+1 || fault != (api.Fault{}) {
+				t.Errorf("Parse of %d tokens from %d = %v, %d, %v", n, at, e, next, fault)
+			}
+		}
+		if e, next, fault := Parse(l, n); !equal(e, api.Expr{}) || next != 0 || fault != (api.Fault{Code: api.ErrEnd}) {
+			t.Errorf("Parse of %d tokens from their end = %v, %d, %v", n, e, next, fault)
+		}
+		wantRefused(t, l, n+1)
+		for _, place := range []int{0, n / 2, n - 1} {
+			bad := slices.Clone(l)
+			bad[place].Text = "end"
+			wantRefused(t, bad, 0)
+			wantRefused(t, bad, n)
+		}
+	}
+}
+
+// What is read may have more tokens than a string has bytes, too.
+func TestP5_1ManyInOne(t *testing.T) {
+	sum := strings.Repeat("a + ", api.MaxText) + "a"
+	for _, s := range []string{sum, sum + " +", sum + " ;", "f ( ( " + sum + " ) ( " + sum + " ) )", strings.Repeat("a * ", 30000) + "end"} {
+		agree(t, "Parse", Parse, expectedExpr, equal, lexMany(t, s))
+	}
+	agree(t, "Target", Target, expectedTarget, equal, lexMany(t, "q"+strings.Repeat(" ( 1 )", api.MaxText)+" <="))
+	agree(t, "Type", Type, expectedType, equalTypes, lexMany(t, "array ( "+sum+" ) of vec ( "+sum+" ) :="))
+}
+
+// lexMany returns the tokens of a string of any length, in which blanks are between all tokens.
+func lexMany(t *testing.T, s string) []api.Token {
+	t.Helper()
+	var l []api.Token
+	for words := range slices.Chunk(strings.Fields(s), 5000) {
+		l = append(l, lex(t, strings.Join(words, " "))...)
+	}
+	return placed(l)
 }
 
 // Where tokens are does not matter.

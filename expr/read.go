@@ -1,11 +1,12 @@
 package expr
 
 import (
-	"strconv"
+	"slices"
 	"strings"
 
 	"netwright/api"
 	"netwright/lexer"
+	"netwright/tokens"
 )
 
 // bitLetters are the bits as they are written.
@@ -13,14 +14,13 @@ const bitLetters = "01xz"
 
 // reader goes over tokens by the rules of the grammar. A rule that cannot go on panics with the fault.
 type reader struct {
-	tokens []api.Token
-	at     int
-	depth  int // how many brackets, not and - of one are open
+	tokens.Reader
+	depth int // how many brackets, not and - of one are open
 }
 
 // read returns what a rule reads from the token at, and the index of the token after it.
 func read[T any](l []api.Token, at int, rule func(*reader) T) (result T, next int, f api.Fault) {
-	if _, err := lexer.Text(l); err != api.OK || at < 0 || at > len(l) {
+	if at < 0 || at > len(l) || !arePossible(l) {
 		return result, 0, api.Fault{Code: api.ErrArg}
 	}
 	defer func() {
@@ -28,63 +28,34 @@ func read[T any](l []api.Token, at int, rule func(*reader) T) (result T, next in
 			f = failure.(api.Fault)
 		}
 	}()
-	r := &reader{tokens: l, at: at}
+	r := &reader{Reader: tokens.Reader{List: l, At: at, End: api.Fault{Code: api.ErrEnd}}}
 	result = rule(r)
-	return result, r.at, api.Fault{}
+	return result, r.At, api.Fault{}
 }
 
-// next returns the next token, a token of no kind at the end.
-func (r *reader) next() api.Token {
-	if r.at == len(r.tokens) {
-		return api.Token{}
+// arePossible reports whether all tokens are possible. There may be more of them than the lexer takes at once.
+func arePossible(l []api.Token) bool {
+	for part := range slices.Chunk(l, api.MaxText) {
+		if _, err := lexer.Text(part); err != api.OK {
+			return false
+		}
 	}
-	return r.tokens[r.at]
-}
-
-// take goes over the next token.
-func (r *reader) take() api.Token {
-	t := r.next()
-	r.at++
-	return t
-}
-
-// sees reports whether the next token is a reserved word or a sign.
-func (r *reader) sees(text string) bool { return isFixed(r.next()) && r.next().Text == text }
-
-// expect goes over a reserved word or a sign, which has to be there.
-func (r *reader) expect(text string) {
-	if !r.sees(text) {
-		panic(r.fault(api.ErrSyntax))
-	}
-	r.at++
+	return true
 }
 
 // open goes over a bracket, not or - of one, behind which everything is one deeper.
 func (r *reader) open() api.Token {
 	if r.depth == api.MaxNest {
-		panic(r.fault(api.ErrDeep))
+		panic(r.Fault(api.ErrDeep))
 	}
 	r.depth++
-	return r.take()
+	return r.Take()
 }
 
 // shut goes over the bracket that ends what the last one opened.
 func (r *reader) shut() {
-	r.expect(")")
+	r.Expect(")")
 	r.depth--
-}
-
-// fault returns a fault at the next token.
-func (r *reader) fault(code api.Errno) api.Fault {
-	if r.at == len(r.tokens) {
-		return api.Fault{Code: api.ErrEnd}
-	}
-	t := r.next()
-	name := t.Text
-	if t.Op == api.TokInt {
-		name = strconv.Itoa(t.N)
-	}
-	return api.Fault{Code: code, Name: name, Line: t.Line, Col: t.Col}
 }
 
 func (r *reader) expression() api.Expr { return r.row(logical) }
@@ -95,8 +66,8 @@ func (r *reader) row(strength int) api.Expr {
 		return r.factor()
 	}
 	left := r.row(strength + 1)
-	for r.seesRow(strength) {
-		operator := r.take()
+	for rowOf(r.Fixed()) == strength {
+		operator := r.Take()
 		right := r.row(strength + 1)
 		left = operation(operator, left, right)
 		// Comparisons are not in rows.
@@ -107,12 +78,8 @@ func (r *reader) row(strength int) api.Expr {
 	return left
 }
 
-func (r *reader) seesRow(strength int) bool {
-	return isFixed(r.next()) && rowOf(r.next().Text) == strength
-}
-
 func (r *reader) factor() api.Expr {
-	if !r.sees("not") && !r.sees("-") {
+	if !r.Sees("not") && !r.Sees("-") {
 		return r.primary()
 	}
 	operator := r.open()
@@ -124,7 +91,7 @@ func (r *reader) factor() api.Expr {
 func (r *reader) primary() api.Expr {
 	// Several arguments can only stand at once behind a name, not behind a name in brackets.
 	most := 1
-	if r.next().Op == api.TokName {
+	if r.Next().Op == api.TokName {
 		most = maxArgs
 	}
 	return r.pieces(r.first(), most)
@@ -132,10 +99,10 @@ func (r *reader) primary() api.Expr {
 
 // first reads what a primary begins with.
 func (r *reader) first() api.Expr {
-	t := r.next()
+	t := r.Next()
 	e := api.Expr{Line: t.Line, Col: t.Col}
 	switch {
-	case r.sees("("):
+	case r.Sees("("):
 		return r.bracketed()
 	case t.Op == api.TokName:
 		e.Op, e.Name = api.EName, t.Text
@@ -146,16 +113,16 @@ func (r *reader) first() api.Expr {
 	case t.Op == api.TokVec:
 		e.Op, e.Bits = api.EVec, bitsOf(t.Text)
 	default:
-		panic(r.fault(api.ErrSyntax))
+		panic(r.Fault(api.ErrSyntax))
 	}
-	r.at++
+	r.At++
 	return e
 }
 
 // bracketed reads an expression in brackets.
 func (r *reader) bracketed() api.Expr {
-	if !r.sees("(") {
-		panic(r.fault(api.ErrSyntax))
+	if !r.Sees("(") {
+		panic(r.Fault(api.ErrSyntax))
 	}
 	r.open()
 	e := r.expression()
@@ -165,7 +132,7 @@ func (r *reader) bracketed() api.Expr {
 
 // pieces reads all brackets behind e: with arguments, at most so many, if e is a name, else with an index, or with the bounds of a slice.
 func (r *reader) pieces(e api.Expr, most int) api.Expr {
-	for r.sees("(") {
+	for r.Sees("(") {
 		e = r.piece(e, most)
 	}
 	return e
@@ -176,13 +143,11 @@ func (r *reader) piece(e api.Expr, most int) api.Expr {
 	kids := []api.Expr{r.expression()}
 	result := api.Expr{Op: api.EIndex, Line: bracket.Line, Col: bracket.Col}
 	switch {
-	case r.sees("downto"):
-		r.at++
+	case r.Accept("downto"):
 		low := r.expression()
 		result.Op, result.Kids = api.ESlice, []api.Expr{e, kids[0], low}
 	case e.Op == api.EName:
-		for len(kids) < most && r.sees(",") {
-			r.at++
+		for len(kids) < most && r.Accept(",") {
 			kid := r.expression()
 			kids = append(kids, kid)
 		}
@@ -195,42 +160,37 @@ func (r *reader) piece(e api.Expr, most int) api.Expr {
 }
 
 func (r *reader) target() api.Expr {
-	if r.next().Op != api.TokName {
-		panic(r.fault(api.ErrSyntax))
+	if r.Next().Op != api.TokName {
+		panic(r.Fault(api.ErrSyntax))
 	}
 	return r.pieces(r.first(), 1)
 }
 
 func (r *reader) typeRef() api.TypeRef {
-	t := r.next()
+	t := r.Next()
 	ref := api.TypeRef{Name: t.Text, Line: t.Line, Col: t.Col}
 	switch {
 	case t.Op == api.TokName:
-		r.at++
-	case r.sees("vec"):
-		r.at++
+		r.At++
+	case r.Accept("vec"):
 		ref.Len = []api.Expr{r.bracketed()}
-	case r.sees("array"):
-		r.at++
+	case r.Accept("array"):
 		ref.Len = []api.Expr{r.bracketed()}
-		r.expect("of")
+		r.Expect("of")
 		ref.Elem = []api.TypeRef{r.element()}
 	default:
-		panic(r.fault(api.ErrSyntax))
+		panic(r.Fault(api.ErrSyntax))
 	}
 	return ref
 }
 
 // element reads the type of an array's elements, which is no array.
 func (r *reader) element() api.TypeRef {
-	if r.sees("array") {
-		panic(r.fault(api.ErrSyntax))
+	if r.Sees("array") {
+		panic(r.Fault(api.ErrSyntax))
 	}
 	return r.typeRef()
 }
-
-// isFixed reports whether a token is a reserved word or a sign: a string may have the same Text.
-func isFixed(t api.Token) bool { return t.Op == api.TokWord || t.Op == api.TokSign }
 
 // operation returns the call of an operator.
 func operation(operator api.Token, kids ...api.Expr) api.Expr {

@@ -3,6 +3,7 @@ package expr
 import (
 	"netwright/api"
 	"netwright/lexer"
+	"netwright/trees"
 )
 
 // writer collects the tokens of an expression or a type. It panics with ErrArg at what is not valid.
@@ -61,7 +62,7 @@ func (w *writer) shut() {
 }
 
 func (w *writer) expression(e *api.Expr) {
-	if w.level == maxLevels || !hasOwnFields(e) {
+	if w.level == trees.MaxLevels || !hasOwnFields(e) {
 		panic(api.ErrArg)
 	}
 	w.level++
